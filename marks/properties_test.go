@@ -1,12 +1,12 @@
 package marks_test
 
 import (
-	"math"
 	"reflect"
 	"slices"
 	"testing"
 
 	"pippin/api"
+	"pippin/cases"
 	"pippin/marks"
 )
 
@@ -27,10 +27,6 @@ func sortsLeft(t *testing.T, b api.MarkBook, fruits [][]int) []int {
 		t.Fatalf("Sorts of %v, %v: error %d", b, fruits, e)
 	}
 	return sorts
-}
-
-func subset(some, all []int) bool {
-	return !slices.ContainsFunc(some, func(n int) bool { return !slices.Contains(all, n) })
 }
 
 // P1.12 (each truth)
@@ -63,11 +59,11 @@ func TestOneMore(t *testing.T) {
 				seen--
 			}
 		}
-		expectMore(t, b, fruits, append(copyRows(fruits), fruit), seen)
+		expectMore(t, b, fruits, append(cases.CopyRows(fruits), fruit), seen)
 		for fruit, row := range fruits {
 			for mark, value := range row {
 				if value == not {
-					expectMore(t, b, fruits, seeing(fruits, fruit, mark, d.below(b.Values[mark])), 1)
+					expectMore(t, b, fruits, seeing(fruits, fruit, mark, d.Below(b.Values[mark])), 1)
 				}
 			}
 		}
@@ -77,7 +73,7 @@ func TestOneMore(t *testing.T) {
 // expectMore compares fruits with those that have so many values more.
 func expectMore(t *testing.T, b api.MarkBook, fruits, more [][]int, values int) {
 	t.Helper()
-	if !subset(sortsLeft(t, b, more), sortsLeft(t, b, fruits)) {
+	if !cases.Subset(sortsLeft(t, b, more), sortsLeft(t, b, fruits)) {
 		t.Errorf("%v: a sort of %v is none of %v", b, more, fruits)
 	}
 	for sort := range b.Sorts {
@@ -113,7 +109,7 @@ func TestMoreLeave(t *testing.T) {
 
 func expectWider(t *testing.T, b, wider api.MarkBook, fruits [][]int) {
 	t.Helper()
-	if !subset(sortsLeft(t, b, fruits), sortsLeft(t, wider, fruits)) {
+	if !cases.Subset(sortsLeft(t, b, fruits), sortsLeft(t, wider, fruits)) {
 		t.Errorf("%v: a sort of %v is none of %v", fruits, b, wider)
 	}
 	for sort := range b.Sorts {
@@ -126,42 +122,17 @@ func expectWider(t *testing.T, b, wider api.MarkBook, fruits [][]int) {
 // order is which of the things comes to each place.
 type order struct{ marks, sorts, fruits []int }
 
-// shuffled returns the numbers below n in some order.
-func (d *dice) shuffled(n int) []int {
-	var numbers []int
-	for number := range n {
-		numbers = slices.Insert(numbers, d.below(number+1), number)
-	}
-	return numbers
-}
-
-// pick returns what comes to each place.
-func pick[T any](from []T, places []int) []T {
-	var picked []T
-	for _, place := range places {
-		picked = append(picked, from[place])
-	}
-	return picked
-}
-
-// back returns the numbers that the picked things had, ascending.
-func back(numbers, places []int) []int {
-	was := pick(places, numbers)
-	slices.Sort(was)
-	return was
-}
-
 // P1.15 (any order)
 func TestAnyOrder(t *testing.T) {
 	eachCase(func(d *dice, b api.MarkBook, fruits [][]int) {
-		o := order{d.shuffled(len(b.Values)), d.shuffled(len(b.Sorts)), d.shuffled(len(fruits))}
-		other := api.MarkBook{Values: pick(b.Values, o.marks), Firm: pick(b.Firm, o.marks), Wrong: b.Wrong}
-		for _, sort := range pick(b.Sorts, o.sorts) {
-			other.Sorts = append(other.Sorts, api.MarkSort{Can: pick(sort.Can, o.marks)})
+		o := order{d.Shuffled(len(b.Values)), d.Shuffled(len(b.Sorts)), d.Shuffled(len(fruits))}
+		other := api.MarkBook{Values: cases.Pick(b.Values, o.marks), Firm: cases.Pick(b.Firm, o.marks), Wrong: b.Wrong}
+		for _, sort := range cases.Pick(b.Sorts, o.sorts) {
+			other.Sorts = append(other.Sorts, api.MarkSort{Can: cases.Pick(sort.Can, o.marks)})
 		}
 		var turned [][]int
-		for _, fruit := range pick(fruits, o.fruits) {
-			turned = append(turned, pick(fruit, o.marks))
+		for _, fruit := range cases.Pick(fruits, o.fruits) {
+			turned = append(turned, cases.Pick(fruit, o.marks))
 		}
 		expectSorts(t, b, other, fruits, turned, o)
 		expectPlaces(t, b, other, fruits, turned, o)
@@ -174,7 +145,7 @@ func expectSorts(t *testing.T, b, other api.MarkBook, fruits, turned [][]int, o 
 	if n, f := marks.Fewest(other, turned); n != fewest || f != e {
 		t.Errorf("%v, %v: Fewest %d; in another order %d", b, fruits, fewest, n)
 	}
-	if sorts, turn := sortsLeft(t, b, fruits), back(sortsLeft(t, other, turned), o.sorts); !slices.Equal(sorts, turn) {
+	if sorts, turn := sortsLeft(t, b, fruits), cases.Back(sortsLeft(t, other, turned), o.sorts); !slices.Equal(sorts, turn) {
 		t.Errorf("%v, %v: Sorts %v; in another order %v", b, fruits, sorts, turn)
 	}
 	for sort, was := range o.sorts {
@@ -186,13 +157,13 @@ func expectSorts(t *testing.T, b, other api.MarkBook, fruits, turned [][]int, o 
 			t.Errorf("%v, %v: Is of %d %d; in another order %d", b, fruits, was, is, n)
 		}
 		twins, _ := marks.Twins(b, was)
-		if turn, _ := marks.Twins(other, sort); !slices.Equal(twins, back(turn, o.sorts)) {
-			t.Errorf("%v: Twins of %d %v; in another order %v", b, was, twins, back(turn, o.sorts))
+		if turn, _ := marks.Twins(other, sort); !slices.Equal(twins, cases.Back(turn, o.sorts)) {
+			t.Errorf("%v: Twins of %d %v; in another order %v", b, was, twins, cases.Back(turn, o.sorts))
 		}
 		for sort2, was2 := range o.sorts {
 			apart, _ := marks.Apart(b, was, was2)
-			if turn, _ := marks.Apart(other, sort, sort2); !slices.Equal(apart, back(turn, o.marks)) {
-				t.Errorf("%v: Apart of %d %d %v; in another order %v", b, was, was2, apart, back(turn, o.marks))
+			if turn, _ := marks.Apart(other, sort, sort2); !slices.Equal(apart, cases.Back(turn, o.marks)) {
+				t.Errorf("%v: Apart of %d %d %v; in another order %v", b, was, was2, apart, cases.Back(turn, o.marks))
 			}
 		}
 	}
@@ -234,7 +205,7 @@ func TestToldApart(t *testing.T) {
 				if sum := wrongOf(t, b, fruits, one) + wrongOf(t, b, fruits, other); sum < len(apart) {
 					t.Errorf("%v, %v: Wrong of %d and %d is %d, but %v tell them apart", b, fruits, one, other, sum, apart)
 				}
-				if subset(list(one, other), sorts) && len(apart) > 2*b.Wrong {
+				if cases.Subset(list(one, other), sorts) && len(apart) > 2*b.Wrong {
 					t.Errorf("%v, %v: both %d and %d are in Sorts, but %v tell them apart", b, fruits, one, other, apart)
 				}
 			}
@@ -270,21 +241,6 @@ func TestNextMark(t *testing.T) {
 	})
 }
 
-// allFruits returns each fruit all of whose marks were looked at.
-func allFruits(b api.MarkBook) [][]int {
-	all := [][]int{nil}
-	for _, values := range b.Values {
-		var longer [][]int
-		for _, fruit := range all {
-			for value := range values {
-				longer = append(longer, append(slices.Clone(fruit), value))
-			}
-		}
-		all = longer
-	}
-	return all
-}
-
 // P1.18 (nothing seen)
 func TestNothingSeen(t *testing.T) {
 	eachCase(func(_ *dice, b api.MarkBook, fruits [][]int) {
@@ -299,7 +255,7 @@ func TestNothingSeen(t *testing.T) {
 			}
 			twins, _ := marks.Twins(b, one)
 			for other := range b.Sorts {
-				both := slices.ContainsFunc(allFruits(b), func(fruit []int) bool {
+				both := slices.ContainsFunc(cases.AllBelow(b.Values), func(fruit []int) bool {
 					return wrongOf(t, b, [][]int{fruit}, one) == 0 && wrongOf(t, b, [][]int{fruit}, other) == 0
 				})
 				if one != other && both != slices.Contains(twins, other) {
@@ -313,35 +269,27 @@ func TestNothingSeen(t *testing.T) {
 // R4: no argument is changed, and no result is a part of one.
 func TestNewMemory(t *testing.T) {
 	eachCase(func(_ *dice, b api.MarkBook, fruits [][]int) {
-		wasBook, wasFruits := copyBook(b), copyRows(fruits)
+		wasBook, wasFruits := copyBook(b), cases.CopyRows(fruits)
 		for fruit := range fruits {
 			for mark := range b.Values {
 				ofFruits(b, fruits, asked{fruit: fruit, place: place(fruit, mark)})
 				values, _ := marks.Values(b, fruits, place(fruit, mark))
-				spoil(values)
+				cases.Spoil(values)
 			}
 		}
 		for one := range b.Sorts {
 			twins, _ := marks.Twins(b, one)
-			spoil(twins)
+			cases.Spoil(twins)
 			for other := range b.Sorts {
 				apart, _ := marks.Apart(b, one, other)
-				spoil(apart)
+				cases.Spoil(apart)
 			}
 		}
-		spoil(sortsLeft(t, b, fruits))
+		cases.Spoil(sortsLeft(t, b, fruits))
 		if !reflect.DeepEqual(b, wasBook) || !reflect.DeepEqual(fruits, wasFruits) {
 			t.Errorf("%v, %v came to be %v, %v", wasBook, wasFruits, b, fruits)
 		}
 	})
-}
-
-// spoil overwrites a list, and what is behind it in memory.
-func spoil(numbers []int) {
-	numbers = numbers[:cap(numbers)]
-	for i := range numbers {
-		numbers[i] = 99
-	}
 }
 
 // R3: nil and empty lists are the same.
@@ -364,43 +312,22 @@ func TestNilAndEmpty(t *testing.T) {
 	}
 }
 
-// odd returns some number that is seldom valid.
-func (d *dice) odd() int {
-	return pick(list(math.MinInt, math.MaxInt, -2, -1, 0, 1, 2, 5, 6, 7, 9, 10, math.MinInt+1, math.MaxInt-1), list(d.below(14)))[0]
-}
-
-func (d *dice) odds() []int {
-	var numbers []int
-	for range d.below(8) {
-		numbers = append(numbers, d.odd())
-	}
-	return numbers
-}
-
-func (d *dice) oddRows() [][]int {
-	var rows [][]int
-	for range d.below(8) {
-		rows = append(rows, d.odds())
-	}
-	return rows
-}
-
 // spoilt returns a book of which one thing, or all, is as it comes.
 func (d *dice) spoilt(b api.MarkBook) api.MarkBook {
-	what := d.below(6)
+	what := d.Below(6)
 	if what == 0 || what == 5 {
-		b.Values = d.odds()
+		b.Values = d.Odds()
 	}
 	if what == 1 || what == 5 {
-		b.Firm = d.odds()
+		b.Firm = d.Odds()
 	}
 	if what == 2 || what == 5 {
-		b.Wrong = d.odd()
+		b.Wrong = d.Odd()
 	}
 	if what == 3 || what == 5 {
-		b.Sorts = make([]api.MarkSort, d.below(11))
+		b.Sorts = make([]api.MarkSort, d.Below(11))
 		for sort := range b.Sorts {
-			b.Sorts[sort].Can = d.oddRows()
+			b.Sorts[sort].Can = d.OddRows()
 		}
 	}
 	return b
@@ -409,13 +336,13 @@ func (d *dice) spoilt(b api.MarkBook) api.MarkBook {
 // P1 (DOC.md): every function terminates, and none panics, whatever its arguments are; R2 holds for them, too.
 func TestAnyArguments(t *testing.T) {
 	eachCase(func(d *dice, b api.MarkBook, fruits [][]int) {
-		if d.below(2) == 0 {
+		if d.Below(2) == 0 {
 			b = d.spoilt(b)
 		}
-		if d.below(2) == 0 {
-			fruits = d.oddRows()
+		if d.Below(2) == 0 {
+			fruits = d.OddRows()
 		}
-		a := asked{d.odd(), d.odd(), d.odd(), place(d.odd(), d.odd())}
+		a := asked{d.Odd(), d.Odd(), d.Odd(), place(d.Odd(), d.Odd())}
 		for _, o := range append(ofFruits(b, fruits, a), ofBook(b, a)...) {
 			if o.e != api.OK && o.result != 0 {
 				t.Errorf("%v, %v, %v: %s = %d with the error %d", b, fruits, a, o.name, o.result, o.e)

@@ -5,6 +5,7 @@ import (
 	"testing"
 
 	"pippin/api"
+	"pippin/cases"
 	"pippin/marks"
 )
 
@@ -26,7 +27,7 @@ func allTruths(b api.MarkBook, fruits [][]int) []truth {
 		var fill func(at, wrong int)
 		fill = func(at, wrong int) {
 			if at == len(fruits)*len(b.Values) {
-				found = append(found, truth{sort, copyRows(real), wrong})
+				found = append(found, truth{sort, cases.CopyRows(real), wrong})
 				return
 			}
 			fruit, mark := at/len(b.Values), at%len(b.Values)
@@ -61,37 +62,23 @@ func sortsOf(all []truth) []int {
 	return slices.Compact(sorts)
 }
 
-func copyRows(rows [][]int) [][]int {
-	var copied [][]int
-	for _, row := range rows {
-		copied = append(copied, slices.Clone(row))
-	}
-	return copied
-}
-
 func copyBook(b api.MarkBook) api.MarkBook {
 	b.Values, b.Firm, b.Sorts = slices.Clone(b.Values), slices.Clone(b.Firm), slices.Clone(b.Sorts)
 	for sort := range b.Sorts {
-		b.Sorts[sort].Can = copyRows(b.Sorts[sort].Can)
+		b.Sorts[sort].Can = cases.CopyRows(b.Sorts[sort].Can)
 	}
 	return b
 }
 
-// dice are the same in each run, so that a test that fails does so again.
-type dice uint64
-
-// below returns a number from 0 to n - 1.
-func (d *dice) below(n int) int {
-	*d = *d*6364136223846793005 + 1442695040888963407
-	return int(uint64(*d) >> 33 % uint64(n))
-}
+// dice throw what layer 1 is about.
+type dice struct{ cases.Dice }
 
 // some returns a strictly ascending list of at least one value.
 func (d *dice) some(values int) []int {
-	sure := d.below(values)
+	sure := d.Below(values)
 	var found []int
 	for value := range values {
-		if value == sure || d.below(3) == 0 {
+		if value == sure || d.Below(3) == 0 {
 			found = append(found, value)
 		}
 	}
@@ -102,8 +89,8 @@ func (d *dice) some(values int) []int {
 func (d *dice) fruit(b api.MarkBook, inFour int) []int {
 	var seen []int
 	for _, values := range b.Values {
-		if d.below(4) < inFour {
-			seen = append(seen, d.below(values))
+		if d.Below(4) < inFour {
+			seen = append(seen, d.Below(values))
 		} else {
 			seen = append(seen, not)
 		}
@@ -113,13 +100,13 @@ func (d *dice) fruit(b api.MarkBook, inFour int) []int {
 
 // eachCase calls a test with many small cases, all of them valid, with none, one or several of everything.
 func eachCase(test func(d *dice, b api.MarkBook, fruits [][]int)) {
-	d := dice(1)
+	d := dice{1}
 	for range 1500 {
-		b := api.MarkBook{Wrong: d.below(4)}
-		for range d.below(4) {
-			b.Values, b.Firm = append(b.Values, 1+d.below(3)), append(b.Firm, d.below(2))
+		b := api.MarkBook{Wrong: d.Below(4)}
+		for range d.Below(4) {
+			b.Values, b.Firm = append(b.Values, 1+d.Below(3)), append(b.Firm, d.Below(2))
 		}
-		for range d.below(5) {
+		for range d.Below(5) {
 			sort := api.MarkSort{}
 			for _, values := range b.Values {
 				sort.Can = append(sort.Can, d.some(values))
@@ -127,7 +114,7 @@ func eachCase(test func(d *dice, b api.MarkBook, fruits [][]int)) {
 			b.Sorts = append(b.Sorts, sort)
 		}
 		var fruits [][]int
-		for range d.below(4) {
+		for range d.Below(4) {
 			fruits = append(fruits, d.fruit(b, 3))
 		}
 		test(&d, b, fruits)
@@ -246,7 +233,7 @@ func TestAfterAgainstAllTruths(t *testing.T) {
 
 // seeing returns the fruits with one more value.
 func seeing(fruits [][]int, fruit, mark, value int) [][]int {
-	more := copyRows(fruits)
+	more := cases.CopyRows(fruits)
 	more[fruit][mark] = value
 	return more
 }
