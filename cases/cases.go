@@ -1,4 +1,4 @@
-// Package cases helps the tests of all layers: it throws small cases, the same ones in each run, and turns lists about.
+// Package cases helps the tests of all layers: it throws small cases, the same ones in each run, turns lists about, and writes truths down one by one.
 package cases
 
 import (

@@ -5,6 +5,7 @@ import (
 	"testing"
 
 	"pippin/api"
+	"pippin/cases"
 	"pippin/keys"
 )
 
@@ -139,15 +140,8 @@ type asked struct {
 	node, sort, other int
 }
 
-// outcome is what a function returned: an error, and how much else.
-type outcome struct {
-	name   string
-	result int
-	e      api.Errno
-}
-
 // calls calls all functions.
-func calls(b api.KeyBook, a asked) []outcome {
+func calls(b api.KeyBook, a asked) []cases.Outcome {
 	walk, e1 := keys.Walk(b, a.fruit)
 	end, e2 := keys.End(b, a.fruit)
 	comes, e3 := keys.Comes(b, a.node)
@@ -161,65 +155,53 @@ func calls(b api.KeyBook, a asked) []outcome {
 	apart, e11 := keys.Apart(b, a.sort, a.other)
 	few, e12 := keys.Few(b)
 	need, e13 := keys.Need(b)
-	return []outcome{
-		{"Check", 0, keys.Check(b)}, {"Walk", len(walk), e1}, {"End", end, e2}, {"Comes", len(comes), e3}, {"Right", len(right), e4}, {"Idle", len(idle), e5}, {"Deep", deep.Low + deep.High, e6},
-		{"Short", short, e7}, {"Best", best, e8}, {"Mean", mean, e9}, {"Make", len(nodes), e10}, {"Apart", len(apart), e11}, {"Few", few, e12}, {"Need", len(need), e13},
-	}
-}
-
-func expectError(t *testing.T, about string, outcomes []outcome, want api.Errno, names ...string) {
-	t.Helper()
-	for _, o := range outcomes {
-		if len(names) > 0 && !slices.Contains(names, o.name) {
-			continue
-		}
-		if o.e != want || o.result != 0 {
-			t.Errorf("%s: %s = %d, error %d; want the error %d and nothing else", about, o.name, o.result, o.e, want)
-		}
+	return []cases.Outcome{
+		cases.Got("Check", 0, keys.Check(b)), cases.Got("Walk", len(walk), e1), cases.Got("End", end, e2), cases.Got("Comes", len(comes), e3), cases.Got("Right", len(right), e4), cases.Got("Idle", len(idle), e5), cases.Got("Deep", deep.Low+deep.High, e6),
+		cases.Got("Short", short, e7), cases.Got("Best", best, e8), cases.Got("Mean", mean, e9), cases.Got("Make", len(nodes), e10), cases.Got("Apart", len(apart), e11), cases.Got("Few", few, e12), cases.Got("Need", len(need), e13),
 	}
 }
 
 // P2.1, R1, R2: ErrKey comes before all other errors.
 func TestWrongBooks(t *testing.T) {
 	for name, b := range wrongBooks() {
-		expectError(t, name, calls(b, asked{nil, -1, -1, 99}), api.ErrKey)
-		expectError(t, name, calls(b, asked{fruit: make([]int, len(b.Values))}), api.ErrKey)
+		cases.ExpectError(t, name, calls(b, asked{nil, -1, -1, 99}), api.ErrKey)
+		cases.ExpectError(t, name, calls(b, asked{fruit: make([]int, len(b.Values))}), api.ErrKey)
 	}
 	b := equal()
 	b.Nodes[0].Next[0] = 0
-	expectError(t, "equal sorts, and a wrong node", calls(b, asked{fruit: list(0, 0), other: 1}), api.ErrKey)
+	cases.ExpectError(t, "equal sorts, and a wrong node", calls(b, asked{fruit: list(0, 0), other: 1}), api.ErrKey)
 }
 
 // ErrArg: what is asked for by numbers is not there.
 func TestNumbersThatAreNone(t *testing.T) {
 	for _, fruit := range [][]int{nil, {0}, {0, 0, 0}, {2, 0}, {0, 3}, {-1, 0}, {0, -1}, {none, none}} {
-		expectError(t, "a fruit", calls(bookB(), asked{fruit: fruit}), api.ErrArg, "Walk", "End")
+		cases.ExpectError(t, "a fruit", calls(bookB(), asked{fruit: fruit}), api.ErrArg, "Walk", "End")
 	}
 	for _, number := range list(-1, 10, 99) {
-		expectError(t, "a node", calls(bookB(), asked{node: number}), api.ErrArg, "Comes")
+		cases.ExpectError(t, "a node", calls(bookB(), asked{node: number}), api.ErrArg, "Comes")
 	}
 	for _, number := range list(-1, 4, 99) {
-		expectError(t, "one sort", calls(bookB(), asked{sort: number}), api.ErrArg, "Apart")
-		expectError(t, "the other sort", calls(bookB(), asked{other: number}), api.ErrArg, "Apart")
-		expectError(t, "both sorts", calls(bookB(), asked{sort: number, other: number}), api.ErrArg, "Apart")
+		cases.ExpectError(t, "one sort", calls(bookB(), asked{sort: number}), api.ErrArg, "Apart")
+		cases.ExpectError(t, "the other sort", calls(bookB(), asked{other: number}), api.ErrArg, "Apart")
+		cases.ExpectError(t, "both sorts", calls(bookB(), asked{sort: number, other: number}), api.ErrArg, "Apart")
 	}
-	expectError(t, "no sorts", calls(bare(list(2)), asked{}), api.ErrArg, "Apart")
+	cases.ExpectError(t, "no sorts", calls(bare(list(2)), asked{}), api.ErrArg, "Apart")
 }
 
 // ErrNone: two sorts have all values in common, which matters to four functions alone.
 func TestEqualSorts(t *testing.T) {
 	for _, o := range calls(equal(), asked{fruit: list(1, 0), other: 1}) {
 		want := api.OK
-		if slices.Contains([]string{"Best", "Mean", "Make", "Few"}, o.name) {
+		if slices.Contains([]string{"Best", "Mean", "Make", "Few"}, o.Name) {
 			want = api.ErrNone
 		}
-		if o.e != want || want == api.ErrNone && o.result != 0 {
-			t.Errorf("equal sorts: %s = %d, %d; want the error %d", o.name, o.result, o.e, want)
+		if o.E != want || want == api.ErrNone && o.Result != 0 {
+			t.Errorf("equal sorts: %s = %d, %d; want the error %d", o.Name, o.Result, o.E, want)
 		}
 	}
 	last := star(3)
 	last.Sorts = append(last.Sorts, last.Sorts[0])
-	expectError(t, "the first and the last", calls(last, asked{}), api.ErrNone, "Best", "Mean", "Make", "Few")
+	cases.ExpectError(t, "the first and the last", calls(last, asked{}), api.ErrNone, "Best", "Mean", "Make", "Few")
 }
 
 // P2.2, P2.3

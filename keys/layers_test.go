@@ -10,26 +10,10 @@ import (
 	"pippin/marks"
 )
 
-// markBook has the sorts of a key as sorts whose marks do not vary, with nothing written wrongly.
-func markBook(d *dice, b api.KeyBook) api.MarkBook {
-	book := api.MarkBook{Values: slices.Clone(b.Values)}
-	for range b.Values {
-		book.Firm = append(book.Firm, d.Below(2))
-	}
-	for _, values := range b.Sorts {
-		var sort api.MarkSort
-		for _, value := range values {
-			sort.Can = append(sort.Can, list(value))
-		}
-		book.Sorts = append(book.Sorts, sort)
-	}
-	return book
-}
-
 // P0.10 (the key and the marks)
 func TestKeyAndMarks(t *testing.T) {
 	eachBook(func(d *dice, b api.KeyBook) {
-		book := markBook(d, b)
+		book := d.PlainMarkBook(b.Values, b.Sorts)
 		for _, fruit := range cases.AllBelow(b.Values) {
 			var want []int
 			for sort, values := range b.Sorts {
@@ -81,7 +65,7 @@ func TestNextMarkAndKey(t *testing.T) {
 			return
 		}
 		mean := number(t, keys.Mean, b)
-		book := markBook(d, b)
+		book := d.PlainMarkBook(b.Values, b.Sorts)
 		most, all := 0, 0
 		for sort := range b.Sorts {
 			looks := lookOn(t, book, b.Sorts[sort], sort)

@@ -274,8 +274,8 @@ func TestNilAndEmpty(t *testing.T) {
 			t.Errorf("%v of nil; %v of empty", o, other)
 		}
 	}
-	expectError(t, "nil", calls(api.KeyBook{}, asked{}), api.ErrKey)
-	expectError(t, "empty", calls(api.KeyBook{Values: []int{}, Sorts: [][]int{}, Nodes: []api.KeyNode{}}, asked{fruit: []int{}}), api.ErrKey)
+	cases.ExpectError(t, "nil", calls(api.KeyBook{}, asked{}), api.ErrKey)
+	cases.ExpectError(t, "empty", calls(api.KeyBook{Values: []int{}, Sorts: [][]int{}, Nodes: []api.KeyNode{}}, asked{fruit: []int{}}), api.ErrKey)
 }
 
 // spoilt returns a book of which one thing, or all, is as it comes.
@@ -305,8 +305,8 @@ func TestAnyArguments(t *testing.T) {
 		for range 4 {
 			a := asked{d.Odds(), d.Odd(), d.Odd(), d.Odd()}
 			for _, o := range calls(b, a) {
-				if o.e != api.OK && o.result != 0 {
-					t.Errorf("%v, %v: %s = %d with the error %d", b, a, o.name, o.result, o.e)
+				if o.E != api.OK && o.Result != 0 {
+					t.Errorf("%v, %v: %s = %d with the error %d", b, a, o.Name, o.Result, o.E)
 				}
 			}
 		}

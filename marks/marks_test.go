@@ -5,6 +5,7 @@ import (
 	"testing"
 
 	"pippin/api"
+	"pippin/cases"
 	"pippin/marks"
 )
 
@@ -16,24 +17,9 @@ func list(numbers ...int) []int { return numbers }
 func place(fruit, mark int) api.MarkPlace { return api.MarkPlace{Fruit: fruit, Mark: mark} }
 
 // bookB is the book B of the chapter's examples; bookC is B with Wrong 0.
-func bookB() api.MarkBook {
-	return api.MarkBook{
-		Values: list(2, 3, 3),
-		Firm:   list(0, 1, 0),
-		Sorts: []api.MarkSort{
-			{Can: [][]int{{0}, {0, 1}, {0}}},
-			{Can: [][]int{{0, 1}, {1}, {1, 2}}},
-			{Can: [][]int{{1}, {2}, {0, 1}}},
-		},
-		Wrong: 1,
-	}
-}
+func bookB() api.MarkBook { return cases.MarkBookB(1) }
 
-func bookC() api.MarkBook {
-	b := bookB()
-	b.Wrong = 0
-	return b
-}
+func bookC() api.MarkBook { return cases.MarkBookB(0) }
 
 // fruitsF, fruitsH and fruitsG are F, H and G of the chapter's examples.
 func fruitsF() [][]int { return [][]int{{0, 0, not}, {0, 1, 0}} }
@@ -141,15 +127,8 @@ type asked struct {
 	place              api.MarkPlace
 }
 
-// outcome is what a function returned: an error, and how much else.
-type outcome struct {
-	name   string
-	result int
-	e      api.Errno
-}
-
 // ofFruits calls all functions that have fruits.
-func ofFruits(b api.MarkBook, fruits [][]int, a asked) []outcome {
+func ofFruits(b api.MarkBook, fruits [][]int, a asked) []cases.Outcome {
 	wrong, e1 := marks.Wrong(b, fruits, a.sort)
 	fewest, e2 := marks.Fewest(b, fruits)
 	sorts, e3 := marks.Sorts(b, fruits)
@@ -158,43 +137,34 @@ func ofFruits(b api.MarkBook, fruits [][]int, a asked) []outcome {
 	mistakes, e6 := marks.Mistakes(b, fruits)
 	after, e7 := marks.After(b, fruits, a.place)
 	next, e8 := marks.Next(b, fruits, a.fruit)
-	return []outcome{
-		{"Check", 0, marks.Check(b, fruits)}, {"Wrong", wrong, e1}, {"Fewest", fewest, e2}, {"Sorts", len(sorts), e3}, {"Is", is, e4},
-		{"Values", len(values), e5}, {"Mistakes", len(mistakes), e6}, {"After", after, e7}, {"Next", next, e8},
+	return []cases.Outcome{
+		cases.Got("Check", 0, marks.Check(b, fruits)), cases.Got("Wrong", wrong, e1), cases.Got("Fewest", fewest, e2), cases.Got("Sorts", len(sorts), e3), cases.Got("Is", is, e4),
+		cases.Got("Values", len(values), e5), cases.Got("Mistakes", len(mistakes), e6), cases.Got("After", after, e7), cases.Got("Next", next, e8),
 	}
 }
 
 // ofBook calls all functions that have none.
-func ofBook(b api.MarkBook, a asked) []outcome {
+func ofBook(b api.MarkBook, a asked) []cases.Outcome {
 	apart, e1 := marks.Apart(b, a.sort, a.other)
 	twins, e2 := marks.Twins(b, a.sort)
-	return []outcome{{"Apart", len(apart), e1}, {"Twins", len(twins), e2}}
-}
-
-func expectError(t *testing.T, about string, outcomes []outcome, want api.Errno) {
-	t.Helper()
-	for _, o := range outcomes {
-		if o.e != want || o.result != 0 {
-			t.Errorf("%s: %s = %d, error %d; want the error %d and nothing else", about, o.name, o.result, o.e, want)
-		}
-	}
+	return []cases.Outcome{cases.Got("Apart", len(apart), e1), cases.Got("Twins", len(twins), e2)}
 }
 
 // P1.1, R1, R2: ErrMark comes before all other errors, then ErrFruit, then ErrArg.
 func TestErrorsInOrder(t *testing.T) {
 	nowhere := asked{sort: -1, other: 99, fruit: -1, place: place(-1, -1)}
 	for name, b := range wrongBooks() {
-		expectError(t, name, ofFruits(b, [][]int{nil, {9}}, nowhere), api.ErrMark)
-		expectError(t, name, ofBook(b, nowhere), api.ErrMark)
-		expectError(t, name, ofFruits(b, nil, asked{}), api.ErrMark)
-		expectError(t, name, ofBook(b, asked{}), api.ErrMark)
+		cases.ExpectError(t, name, ofFruits(b, [][]int{nil, {9}}, nowhere), api.ErrMark)
+		cases.ExpectError(t, name, ofBook(b, nowhere), api.ErrMark)
+		cases.ExpectError(t, name, ofFruits(b, nil, asked{}), api.ErrMark)
+		cases.ExpectError(t, name, ofBook(b, asked{}), api.ErrMark)
 	}
 	for name, fruits := range wrongFruits() {
-		expectError(t, name, ofFruits(bookB(), fruits, nowhere), api.ErrFruit)
-		expectError(t, name, ofFruits(bookB(), fruits, asked{}), api.ErrFruit)
+		cases.ExpectError(t, name, ofFruits(bookB(), fruits, nowhere), api.ErrFruit)
+		cases.ExpectError(t, name, ofFruits(bookB(), fruits, asked{}), api.ErrFruit)
 		b := bookB()
 		b.Sorts = nil
-		expectError(t, name, ofFruits(b, fruits, asked{}), api.ErrFruit)
+		cases.ExpectError(t, name, ofFruits(b, fruits, asked{}), api.ErrFruit)
 	}
 }
 
@@ -231,23 +201,23 @@ func TestNumbersThatAreNone(t *testing.T) {
 			t.Errorf("After of %v, which was looked at, = %d, %d", p, after, e)
 		}
 	}
-	expectError(t, "no sorts", ofBook(api.MarkBook{}, asked{}), api.ErrArg)
+	cases.ExpectError(t, "no sorts", ofBook(api.MarkBook{}, asked{}), api.ErrArg)
 }
 
 // ErrNone: there is no truth, or no sort.
 func TestNoTruth(t *testing.T) {
 	outcomes := ofFruits(bookC(), fruitsF(), asked{place: place(0, 2)})
-	expectError(t, "C, F", outcomes[3:], api.ErrNone)
+	cases.ExpectError(t, "C, F", outcomes[3:], api.ErrNone)
 	empty := api.MarkBook{Values: list(2), Firm: list(0)}
 	for _, o := range ofFruits(empty, [][]int{{not}}, asked{}) {
 		want := api.ErrNone
-		switch o.name {
+		switch o.Name {
 		case "Check":
 			want = api.OK
 		case "Wrong", "Is":
 			want = api.ErrArg
 		}
-		expectError(t, "no sorts", []outcome{o}, want)
+		cases.ExpectError(t, "no sorts", []cases.Outcome{o}, want)
 	}
 }
 

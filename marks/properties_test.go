@@ -31,14 +31,14 @@ func sortsLeft(t *testing.T, b api.MarkBook, fruits [][]int) []int {
 
 // P1.12 (each truth)
 func TestEachTruth(t *testing.T) {
-	eachCase(func(_ *dice, b api.MarkBook, fruits [][]int) {
+	eachCase(func(_ *cases.Dice, b api.MarkBook, fruits [][]int) {
 		sorts := sortsLeft(t, b, fruits)
 		fewest, _ := marks.Fewest(b, fruits)
 		for _, x := range truths(b, fruits) {
-			if !slices.Contains(sorts, x.sort) || x.wrong < wrongOf(t, b, fruits, x.sort) || x.wrong < fewest {
+			if !slices.Contains(sorts, x.Sort) || x.Wrong < wrongOf(t, b, fruits, x.Sort) || x.Wrong < fewest {
 				t.Errorf("%v, %v: the truth %v; Sorts %v, Fewest %d", b, fruits, x, sorts, fewest)
 			}
-			for fruit, real := range x.real {
+			for fruit, real := range x.Real {
 				for mark, value := range real {
 					if values, _ := marks.Values(b, fruits, place(fruit, mark)); !slices.Contains(values, value) {
 						t.Errorf("%v, %v: the truth %v; Values of %d %d are %v", b, fruits, x, fruit, mark, values)
@@ -51,8 +51,8 @@ func TestEachTruth(t *testing.T) {
 
 // P1.13 (one more)
 func TestOneMore(t *testing.T) {
-	eachCase(func(d *dice, b api.MarkBook, fruits [][]int) {
-		fruit := d.fruit(b, 3)
+	eachCase(func(d *cases.Dice, b api.MarkBook, fruits [][]int) {
+		fruit := d.Fruit(b, 3)
 		seen := len(fruit)
 		for _, value := range fruit {
 			if value == not {
@@ -86,17 +86,17 @@ func expectMore(t *testing.T, b api.MarkBook, fruits, more [][]int, values int) 
 
 // P1.14 (more leave)
 func TestMoreLeave(t *testing.T) {
-	eachCase(func(_ *dice, b api.MarkBook, fruits [][]int) {
-		wider := copyBook(b)
+	eachCase(func(_ *cases.Dice, b api.MarkBook, fruits [][]int) {
+		wider := cases.CopyMarkBook(b)
 		wider.Wrong++
 		expectWider(t, b, wider, fruits)
 		for mark := range b.Values {
-			wider := copyBook(b)
+			wider := cases.CopyMarkBook(b)
 			wider.Firm[mark] = 0
 			expectWider(t, b, wider, fruits)
 			for sort := range b.Sorts {
 				for value := range b.Values[mark] {
-					wider := copyBook(b)
+					wider := cases.CopyMarkBook(b)
 					can := append(wider.Sorts[sort].Can[mark], value)
 					slices.Sort(can)
 					wider.Sorts[sort].Can[mark] = slices.Compact(can)
@@ -124,7 +124,7 @@ type order struct{ marks, sorts, fruits []int }
 
 // P1.15 (any order)
 func TestAnyOrder(t *testing.T) {
-	eachCase(func(d *dice, b api.MarkBook, fruits [][]int) {
+	eachCase(func(d *cases.Dice, b api.MarkBook, fruits [][]int) {
 		o := order{d.Shuffled(len(b.Values)), d.Shuffled(len(b.Sorts)), d.Shuffled(len(fruits))}
 		other := api.MarkBook{Values: cases.Pick(b.Values, o.marks), Firm: cases.Pick(b.Firm, o.marks), Wrong: b.Wrong}
 		for _, sort := range cases.Pick(b.Sorts, o.sorts) {
@@ -196,8 +196,8 @@ func expectPlaces(t *testing.T, b, other api.MarkBook, fruits, turned [][]int, o
 
 // P1.16 (told apart)
 func TestToldApart(t *testing.T) {
-	eachCase(func(d *dice, b api.MarkBook, fruits [][]int) {
-		fruits = append(fruits, d.fruit(b, 4))
+	eachCase(func(d *cases.Dice, b api.MarkBook, fruits [][]int) {
+		fruits = append(fruits, d.Fruit(b, 4))
 		sorts := sortsLeft(t, b, fruits)
 		for one := range b.Sorts {
 			for other := range b.Sorts {
@@ -215,7 +215,7 @@ func TestToldApart(t *testing.T) {
 
 // P1.17 (the next mark)
 func TestNextMark(t *testing.T) {
-	eachCase(func(_ *dice, b api.MarkBook, fruits [][]int) {
+	eachCase(func(_ *cases.Dice, b api.MarkBook, fruits [][]int) {
 		sorts := len(sortsLeft(t, b, fruits))
 		for fruit, seen := range fruits {
 			next, e := marks.Next(b, fruits, fruit)
@@ -243,7 +243,7 @@ func TestNextMark(t *testing.T) {
 
 // P1.18 (nothing seen)
 func TestNothingSeen(t *testing.T) {
-	eachCase(func(_ *dice, b api.MarkBook, fruits [][]int) {
+	eachCase(func(_ *cases.Dice, b api.MarkBook, fruits [][]int) {
 		var none [][]int
 		for range fruits {
 			none = append(none, slices.Repeat(list(not), len(b.Values)))
@@ -268,8 +268,8 @@ func TestNothingSeen(t *testing.T) {
 
 // R4: no argument is changed, and no result is a part of one.
 func TestNewMemory(t *testing.T) {
-	eachCase(func(_ *dice, b api.MarkBook, fruits [][]int) {
-		wasBook, wasFruits := copyBook(b), cases.CopyRows(fruits)
+	eachCase(func(_ *cases.Dice, b api.MarkBook, fruits [][]int) {
+		wasBook, wasFruits := cases.CopyMarkBook(b), cases.CopyRows(fruits)
 		for fruit := range fruits {
 			for mark := range b.Values {
 				ofFruits(b, fruits, asked{fruit: fruit, place: place(fruit, mark)})
@@ -312,40 +312,19 @@ func TestNilAndEmpty(t *testing.T) {
 	}
 }
 
-// spoilt returns a book of which one thing, or all, is as it comes.
-func (d *dice) spoilt(b api.MarkBook) api.MarkBook {
-	what := d.Below(6)
-	if what == 0 || what == 5 {
-		b.Values = d.Odds()
-	}
-	if what == 1 || what == 5 {
-		b.Firm = d.Odds()
-	}
-	if what == 2 || what == 5 {
-		b.Wrong = d.Odd()
-	}
-	if what == 3 || what == 5 {
-		b.Sorts = make([]api.MarkSort, d.Below(11))
-		for sort := range b.Sorts {
-			b.Sorts[sort].Can = d.OddRows()
-		}
-	}
-	return b
-}
-
 // P1 (DOC.md): every function terminates, and none panics, whatever its arguments are; R2 holds for them, too.
 func TestAnyArguments(t *testing.T) {
-	eachCase(func(d *dice, b api.MarkBook, fruits [][]int) {
+	eachCase(func(d *cases.Dice, b api.MarkBook, fruits [][]int) {
 		if d.Below(2) == 0 {
-			b = d.spoilt(b)
+			b = d.SpoiltMarkBook(b)
 		}
 		if d.Below(2) == 0 {
 			fruits = d.OddRows()
 		}
 		a := asked{d.Odd(), d.Odd(), d.Odd(), place(d.Odd(), d.Odd())}
 		for _, o := range append(ofFruits(b, fruits, a), ofBook(b, a)...) {
-			if o.e != api.OK && o.result != 0 {
-				t.Errorf("%v, %v, %v: %s = %d with the error %d", b, fruits, a, o.name, o.result, o.e)
+			if o.E != api.OK && o.Result != 0 {
+				t.Errorf("%v, %v, %v: %s = %d with the error %d", b, fruits, a, o.Name, o.Result, o.E)
 			}
 		}
 	})

@@ -1,0 +1,38 @@
+package cases
+
+import (
+	"slices"
+
+	"pippin/api"
+)
+
+// Outcome is what a function returned: an error, and how much else.
+type Outcome struct {
+	Name   string
+	Result int
+	E      api.Errno
+}
+
+// Got keeps lists of outcomes short.
+func Got(name string, result int, e api.Errno) Outcome {
+	return Outcome{name, result, e}
+}
+
+// Test is the part of a test that ExpectError needs.
+type Test interface {
+	Helper()
+	Errorf(format string, values ...any)
+}
+
+// ExpectError checks that all functions, or those that are named, returned an error and nothing else.
+func ExpectError(t Test, about string, outcomes []Outcome, want api.Errno, names ...string) {
+	t.Helper()
+	for _, o := range outcomes {
+		if len(names) > 0 && !slices.Contains(names, o.Name) {
+			continue
+		}
+		if o.E != want || o.Result != 0 {
+			t.Errorf("%s: %s = %d, error %d; want the error %d and nothing else", about, o.Name, o.Result, o.E, want)
+		}
+	}
+}
