@@ -28,7 +28,7 @@ func eachPlain(test func(key api.KeyBook, x api.Box, of []int)) {
 		}
 		x.Fruits = cases.CopyRows(cases.Pick(sorts, of))
 		end := api.KeyNode{Mark: api.KeyNone, Sort: api.KeyNone}
-		test(api.KeyBook{Values: values, Sorts: sorts, Nodes: []api.KeyNode{end}}, tied(&d, x), of)
+		test(api.KeyBook{Values: values, Sorts: sorts, Nodes: []api.KeyNode{end}}, d.Tied(x), of)
 	}
 }
 

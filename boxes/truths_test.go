@@ -102,25 +102,11 @@ func once(numbers []int) []int {
 	return slices.Compact(slices.Sorted(slices.Values(numbers)))
 }
 
-// tied returns a box with some pairs of fruits tied.
-func tied(d *cases.Dice, x api.Box) api.Box {
-	for range d.Below(3) {
-		if b := d.Below(len(x.Fruits) + 1); b > 0 && b < len(x.Fruits) {
-			x.Tied = append(x.Tied, pair(d.Below(b), b))
-		}
-	}
-	return x
-}
-
 // eachBox calls a test with many small boxes, all of them valid, with none, one or several of everything.
 func eachBox(test func(d *cases.Dice, x api.Box)) {
 	d := cases.Dice(3)
 	for range 1000 {
-		x := api.Box{Book: d.MarkBook(3, 5), Trees: 1 + d.Below(api.MaxBoxTrees)}
-		for range d.Below(6) {
-			x.Fruits = append(x.Fruits, d.Fruit(x.Book, 3))
-		}
-		test(&d, tied(&d, x))
+		test(&d, d.Box())
 	}
 }
 
