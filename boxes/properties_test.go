@@ -311,11 +311,7 @@ func TestAnyArguments(t *testing.T) {
 		}
 		for range 3 {
 			a := asked{d.Odd(), d.Odd()}
-			for _, o := range calls(x, a) {
-				if o.E != api.OK && o.Result != 0 {
-					t.Errorf("%v, %v: %s = %d with the error %d", x, a, o.Name, o.Result, o.E)
-				}
-			}
+			cases.ExpectNothingElse(t, calls(x, a), x, a)
 		}
 	})
 	long := make([]int, 1<<20)

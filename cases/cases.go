@@ -63,6 +63,17 @@ func AllBelow(limits []int) [][]int {
 	return all
 }
 
+// Sets returns each strictly ascending list of numbers below n.
+func Sets(n int) [][]int {
+	sets := [][]int{nil}
+	for number := range n {
+		for _, set := range sets {
+			sets = append(sets, append(slices.Clone(set), number))
+		}
+	}
+	return sets
+}
+
 // Pick returns what comes to each place.
 func Pick[T any](from []T, places []int) []T {
 	var picked []T

@@ -36,3 +36,13 @@ func ExpectError(t Test, about string, outcomes []Outcome, want api.Errno, names
 		}
 	}
 }
+
+// ExpectNothingElse checks R2: where there is an error, there is nothing else.
+func ExpectNothingElse(t Test, outcomes []Outcome, about ...any) {
+	t.Helper()
+	for _, o := range outcomes {
+		if o.E != api.OK && o.Result != 0 {
+			t.Errorf("%v: %s = %d with the error %d", about, o.Name, o.Result, o.E)
+		}
+	}
+}

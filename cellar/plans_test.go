@@ -260,13 +260,7 @@ func spoil(d *cases.Dice, meals []api.CellarMeal) []api.CellarMeal {
 // allColds writes down all lists of lots in the cold room, those with the fewest lots first, and of these the least one.
 func allColds(c api.Cellar) [][]int {
 	var all [][]int
-	for _, places := range cases.AllBelow(slices.Repeat(list(2), len(c.Lots))) {
-		var cold []int
-		for lot, in := range places {
-			if in == 1 {
-				cold = append(cold, lot)
-			}
-		}
+	for _, cold := range cases.Sets(len(c.Lots)) {
 		if len(cold) <= c.Room {
 			all = append(all, cold)
 		}

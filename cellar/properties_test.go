@@ -398,11 +398,7 @@ func TestAnyArguments(t *testing.T) {
 			for range d.Below(4) {
 				x.plan = append(x.plan, meal(d.Odd(), d.Odd(), d.Odd()))
 			}
-			for _, o := range calls(c, x) {
-				if o.E != api.OK && o.Result != 0 {
-					t.Errorf("%v, %v: %s = %d with the error %d", c, x, o.Name, o.Result, o.E)
-				}
-			}
+			cases.ExpectNothingElse(t, calls(c, x), c, x)
 		}
 	})
 	long := house(make([]int, 1<<20), 0, 0, make([]api.CellarLot, 1<<20)...)

@@ -296,13 +296,7 @@ func TestMarksAgainstAllPairs(t *testing.T) {
 func compareFew(t *testing.T, b api.KeyBook, need []int) {
 	t.Helper()
 	least, want := 0, api.ErrNone
-	for _, taken := range cases.AllBelow(slices.Repeat(list(2), len(b.Values))) {
-		var marks []int
-		for mark, is := range taken {
-			if is == 1 {
-				marks = append(marks, mark)
-			}
-		}
+	for _, marks := range cases.Sets(len(b.Values)) {
 		if !told(b.Sorts, marks) {
 			continue
 		}

@@ -322,11 +322,7 @@ func TestAnyArguments(t *testing.T) {
 			fruits = d.OddRows()
 		}
 		a := asked{d.Odd(), d.Odd(), d.Odd(), place(d.Odd(), d.Odd())}
-		for _, o := range append(ofFruits(b, fruits, a), ofBook(b, a)...) {
-			if o.E != api.OK && o.Result != 0 {
-				t.Errorf("%v, %v, %v: %s = %d with the error %d", b, fruits, a, o.Name, o.Result, o.E)
-			}
-		}
+		cases.ExpectNothingElse(t, append(ofFruits(b, fruits, a), ofBook(b, a)...), b, fruits, a)
 	})
 	long := make([]int, 1<<20)
 	ofFruits(api.MarkBook{Values: long, Firm: long, Sorts: make([]api.MarkSort, 1<<20)}, [][]int{long}, asked{})

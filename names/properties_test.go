@@ -184,13 +184,7 @@ func TestWhatIsKept(t *testing.T) {
 		if drop > twos {
 			t.Errorf("%v: Drop is %d, but %d letters say that two names are two", b, drop, twos)
 		}
-		for _, some := range cases.AllBelow(slices.Repeat(list(2), len(b.Letters))) {
-			var left []int
-			for number, in := range some {
-				if in == 1 {
-					left = append(left, number)
-				}
-			}
+		for _, left := range cases.Sets(len(b.Letters)) {
 			if len(b.Letters)-len(left) < drop && !contradictsItself(t, only(b, left)) {
 				t.Errorf("%v: Drop is %d, but %v do not contradict one another", b, drop, left)
 			}
@@ -345,11 +339,7 @@ func TestAnyArguments(t *testing.T) {
 		}
 		for range 3 {
 			x := asked{d.Odd(), d.Odd()}
-			for _, o := range calls(b, x) {
-				if o.E != api.OK && o.Result != 0 {
-					t.Errorf("%v, %v: %s = %d with the error %d", b, x, o.Name, o.Result, o.E)
-				}
-			}
+			cases.ExpectNothingElse(t, calls(b, x), b, x)
 		}
 	})
 	cases.ExpectError(t, "a long list", calls(book(2, make([]api.NameLetter, 1<<20)...), asked{0, 1}), api.ErrName)
