@@ -113,23 +113,6 @@ func tell(l api.ScionList) told {
 	return all
 }
 
-// throwList returns a valid list with so many sorts, gardens and wants, as far as there can be as many.
-func throwList(d *cases.Dice, sorts, gardens, wants int) api.ScionList {
-	var l api.ScionList
-	for range sorts {
-		l.Scions = append(l.Scions, d.Below(api.MaxScions+1))
-	}
-	frosts, places := 1+d.Below(api.MaxFrosts), 2+d.Below(api.MaxScionPlaces)
-	for range gardens {
-		l.Gardens = append(l.Gardens, garden(d.Below(places), d.Below(frosts)))
-	}
-	pairs := d.Shuffled(sorts * gardens)
-	for _, pair := range pairs[:min(wants, len(pairs))] {
-		l.Wants = append(l.Wants, want(pair%gardens, pair/gardens))
-	}
-	return l
-}
-
 // eachList calls a test with many small lists.
 func eachList(test func(d *cases.Dice, l api.ScionList)) {
 	d := cases.Dice(6)
@@ -138,7 +121,7 @@ func eachList(test func(d *cases.Dice, l api.ScionList)) {
 	}
 	for range 1000 {
 		sorts, gardens, wants := d.Below(api.MaxScionSorts+1), d.Below(api.MaxScionGardens+1), d.Below(8)
-		test(&d, throwList(&d, sorts, gardens, wants))
+		test(&d, d.ScionList(sorts, gardens, wants))
 	}
 }
 
@@ -148,7 +131,7 @@ func eachLarge(test func(d *cases.Dice, l api.ScionList)) {
 	test(&d, full())
 	test(&d, frozen())
 	for range 30 {
-		test(&d, throwList(&d, 3+d.Below(2), 4+d.Below(2), api.MaxScionWants))
+		test(&d, d.ScionList(3+d.Below(2), 4+d.Below(2), api.MaxScionWants))
 	}
 }
 
