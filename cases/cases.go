@@ -95,6 +95,15 @@ func Subset(some, all []int) bool {
 	return !slices.ContainsFunc(some, func(n int) bool { return !slices.Contains(all, n) })
 }
 
+// Sum returns the sum of some numbers.
+func Sum(numbers []int) int {
+	sum := 0
+	for _, n := range numbers {
+		sum += n
+	}
+	return sum
+}
+
 // CopyRows returns rows that share no memory with the given ones.
 func CopyRows(rows [][]int) [][]int {
 	var copied [][]int

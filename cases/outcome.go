@@ -37,6 +37,22 @@ func ExpectError(t Test, about string, outcomes []Outcome, want api.Errno, names
 	}
 }
 
+// ExpectOwnLists checks that the lists that functions return share no memory with each other, and are the same again after they were overwritten.
+func ExpectOwnLists(t Test, lists func() [][]int, about ...any) {
+	t.Helper()
+	results := lists()
+	was := CopyRows(results)
+	for at, result := range results {
+		Spoil(result)
+		if later := results[at+1:]; !slices.EqualFunc(later, was[at+1:], slices.Equal[[]int]) {
+			t.Errorf("%v: %v came to be %v", about, was[at+1:], later)
+		}
+	}
+	if again := lists(); !slices.EqualFunc(was, again, slices.Equal[[]int]) {
+		t.Errorf("%v: %v, and again %v", about, was, again)
+	}
+}
+
 // ExpectNothingElse checks R2: where there is an error, there is nothing else.
 func ExpectNothingElse(t Test, outcomes []Outcome, about ...any) {
 	t.Helper()

@@ -385,18 +385,7 @@ func TestNewMemory(t *testing.T) {
 func TestTheSameAgain(t *testing.T) {
 	eachSearch(func(d *cases.Dice, x api.LostSearch) {
 		a := throwAsked(d, x)
-		results := lists(x, a)
-		was := cases.CopyRows(results)
-		for at, result := range results {
-			cases.Spoil(result)
-			// no two results of one call share memory
-			if later := results[at+1:]; !slices.EqualFunc(later, was[at+1:], slices.Equal[[]int]) {
-				t.Errorf("%v, %v: %v came to be %v", x, a, was[at+1:], later)
-			}
-		}
-		if again := lists(x, a); !slices.EqualFunc(was, again, slices.Equal[[]int]) {
-			t.Errorf("%v, %v: %v, and again %v", x, a, was, again)
-		}
+		cases.ExpectOwnLists(t, func() [][]int { return lists(x, a) }, x, a)
 		if outcomes, again := calls(x, a), calls(x, a); !slices.Equal(outcomes, again) {
 			t.Errorf("%v: %v, and again %v", x, outcomes, again)
 		}

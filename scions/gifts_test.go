@@ -28,14 +28,6 @@ func countsOf(l api.ScionList, gift []int) []int {
 	return counts
 }
 
-func sumOf(numbers []int) int {
-	sum := 0
-	for _, n := range numbers {
-		sum += n
-	}
-	return sum
-}
-
 // safeOf returns how many sorts are safe by a gift.
 func safeOf(l api.ScionList, gift []int) int {
 	counts := countsOf(l, gift)

@@ -102,7 +102,7 @@ func TestEachGift(t *testing.T) {
 func TestTheRarestFirst(t *testing.T) {
 	test := func(_ *cases.Dice, l api.ScionList) {
 		most, best, alone := numberOf(t, scions.Most, l), numbersOf(t, scions.Best, l), aloneOf(t, l)
-		if len(best) != len(l.Scions) || sumOf(best) > most || most > sumOf(alone) {
+		if len(best) != len(l.Scions) || cases.Sum(best) > most || most > cases.Sum(alone) {
 			t.Errorf("%v: Best is %v, Most %d, Alone %v", l, best, most, alone)
 		}
 		if len(best) > 0 && best[0] != alone[0] {
@@ -334,14 +334,7 @@ func TestNewMemory(t *testing.T) {
 func TestTheSameAgain(t *testing.T) {
 	eachList(func(d *cases.Dice, l api.ScionList) {
 		gift := throwGift(d, l)
-		results := lists(l, gift)
-		was := cases.CopyRows(results)
-		for _, result := range results {
-			cases.Spoil(result)
-		}
-		if again := lists(l, gift); !slices.EqualFunc(was, again, slices.Equal[[]int]) {
-			t.Errorf("%v, %v: %v, and again %v", l, gift, was, again)
-		}
+		cases.ExpectOwnLists(t, func() [][]int { return lists(l, gift) }, l, gift)
 		x := asked{gift, 0}
 		if outcomes, again := calls(l, x), calls(l, x); !slices.Equal(outcomes, again) {
 			t.Errorf("%v: %v, and again %v", l, outcomes, again)
