@@ -33,3 +33,40 @@ func CopyJudgeShow(s api.JudgeShow) api.JudgeShow {
 	}
 	return s
 }
+
+// SpoiltJudgeShow returns a show of which one thing, or all, is as it comes.
+func (d *Dice) SpoiltJudgeShow(s api.JudgeShow) api.JudgeShow {
+	what := d.Below(6)
+	if what == 0 || what == 5 {
+		s.Judges = d.Odd()
+	}
+	if what == 1 || what == 5 {
+		s.Drop = d.Odd()
+	}
+	if what == 2 || what == 5 {
+		s.Prizes = d.Odd()
+	}
+	if what == 3 || what == 5 {
+		s.Plates = nil
+		for range d.Below(9) {
+			s.Plates = append(s.Plates, api.JudgePlate{Size: d.Odd(), Points: d.Odds()})
+		}
+	}
+	if what == 4 && len(s.Plates) > 0 {
+		s.Plates[d.Below(len(s.Plates))].Points[d.Below(s.Judges)] = d.Odd()
+	}
+	return s
+}
+
+// OpenMarks returns all marks of a show that are not in yet, those of the first plate first.
+func OpenMarks(s api.JudgeShow) []api.JudgeMark {
+	var marks []api.JudgeMark
+	for plate, p := range s.Plates {
+		for judge, points := range p.Points {
+			if points == api.JudgeOpen {
+				marks = append(marks, api.JudgeMark{Plate: plate, Judge: judge})
+			}
+		}
+	}
+	return marks
+}

@@ -349,7 +349,7 @@ func TestNext(t *testing.T) {
 		"full":                {full(), slices.Repeat(list(0), 12), mark(0, 2)},
 		"blank":               {blank(), slices.Repeat(list(6), 30), mark(0, 0)},
 	} {
-		for at, m := range openMarks(x.s) {
+		for at, m := range cases.OpenMarks(x.s) {
 			if after, e := judges.After(x.s, m); after != x.after[at] || e != api.OK {
 				t.Errorf("%s: After of %v = %d, %d; want %d", name, m, after, e, x.after[at])
 			}

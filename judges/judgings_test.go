@@ -9,19 +9,6 @@ import (
 	"pippin/judges"
 )
 
-// openMarks returns all marks of a show that are not in yet.
-func openMarks(s api.JudgeShow) []api.JudgeMark {
-	var marks []api.JudgeMark
-	for plate, p := range s.Plates {
-		for judge, points := range p.Points {
-			if points == api.JudgeOpen {
-				marks = append(marks, mark(plate, judge))
-			}
-		}
-	}
-	return marks
-}
-
 // given returns a show with other points of some marks.
 func given(s api.JudgeShow, marks []api.JudgeMark, points ...int) api.JudgeShow {
 	return with(s, func(s *api.JudgeShow) {
@@ -78,7 +65,7 @@ func judge(s api.JudgeShow) judging {
 
 // allJudgings writes down all judgings.
 func allJudgings(s api.JudgeShow) []judging {
-	open := openMarks(s)
+	open := cases.OpenMarks(s)
 	var all []judging
 	for _, points := range cases.AllBelow(slices.Repeat(list(api.MaxJudgePoints+1), len(open))) {
 		all = append(all, judge(given(s, open, points...)))
@@ -238,7 +225,7 @@ func expectBetter(t *testing.T, s api.JudgeShow, all []judging, plate int) {
 // expectNext checks After of each mark that is not in yet, and Next.
 func expectNext(t *testing.T, s api.JudgeShow, all []judging) {
 	t.Helper()
-	open := openMarks(s)
+	open := cases.OpenMarks(s)
 	var best api.JudgeMark
 	least := len(s.Plates) + 1
 	for _, m := range open {

@@ -90,7 +90,7 @@ func inside(part, all api.Span) bool {
 
 // eachJudging calls a test with some judgings of a show, those among them in which one plate gets as much as it can, and all others as little, or the other way around.
 func eachJudging(d *cases.Dice, s api.JudgeShow, test func(j api.JudgeShow)) {
-	marks := openMarks(s)
+	marks := cases.OpenMarks(s)
 	fill := func(points func(plate int) int) {
 		var all []int
 		for _, m := range marks {
@@ -161,7 +161,7 @@ func expectKeptBetter(t *testing.T, s, more api.JudgeShow, plate int) {
 // P8.14 (one more comes in)
 func TestOneMoreComesIn(t *testing.T) {
 	eachShow(func(d *cases.Dice, s api.JudgeShow) {
-		for _, m := range openMarks(s) {
+		for _, m := range cases.OpenMarks(s) {
 			more := given(s, []api.JudgeMark{m}, d.Below(api.MaxJudgePoints+1))
 			for plate := range s.Plates {
 				if total, now := totalIn(t, s, plate), totalIn(t, more, plate); !inside(now, total) {
@@ -202,7 +202,7 @@ func TestAnyOrder(t *testing.T) {
 			t.Errorf("Sure of %v is %v, %v; of %v it is %v, %v", s, get, miss, other, isGet, isMiss)
 		}
 		was := func(m api.JudgeMark) api.JudgeMark { return mark(byPlate[m.Plate], byJudge[m.Judge]) }
-		if len(openMarks(s)) == 0 {
+		if len(cases.OpenMarks(s)) == 0 {
 			expectSameClosed(t, s, other, byPlate, byJudge, was)
 			return
 		}
@@ -225,7 +225,7 @@ func expectSamePlate(t *testing.T, s, other api.JudgeShow, plate, number int) {
 // expectSameOpen checks After and Next of a show in another order.
 func expectSameOpen(t *testing.T, s, other api.JudgeShow, was func(m api.JudgeMark) api.JudgeMark) {
 	t.Helper()
-	for _, m := range openMarks(other) {
+	for _, m := range cases.OpenMarks(other) {
 		if before, after := afterIn(t, s, was(m)), afterIn(t, other, m); before != after {
 			t.Errorf("After of %v, %v is %d; of %v, %v it is %d", s, was(m), before, other, m, after)
 		}
@@ -398,7 +398,7 @@ func lists(s api.JudgeShow) [][]int {
 func throwAsked(d *cases.Dice, s api.JudgeShow) asked {
 	plates := max(1, len(s.Plates))
 	a := asked{d.Below(plates), d.Below(plates), mark(d.Below(plates), d.Below(s.Judges))}
-	if open := openMarks(s); len(open) > 0 {
+	if open := cases.OpenMarks(s); len(open) > 0 {
 		a.mark = open[d.Below(len(open))]
 	}
 	return a
@@ -458,35 +458,11 @@ func TestNilAndEmpty(t *testing.T) {
 	}
 }
 
-// spoilt returns a show of which one thing, or all, is as it comes.
-func spoilt(d *cases.Dice, s api.JudgeShow) api.JudgeShow {
-	what := d.Below(6)
-	if what == 0 || what == 5 {
-		s.Judges = d.Odd()
-	}
-	if what == 1 || what == 5 {
-		s.Drop = d.Odd()
-	}
-	if what == 2 || what == 5 {
-		s.Prizes = d.Odd()
-	}
-	if what == 3 || what == 5 {
-		s.Plates = nil
-		for range d.Below(9) {
-			s.Plates = append(s.Plates, plate(d.Odd(), d.Odds()...))
-		}
-	}
-	if what == 4 && len(s.Plates) > 0 {
-		s.Plates[d.Below(len(s.Plates))].Points[d.Below(s.Judges)] = d.Odd()
-	}
-	return s
-}
-
 // P1 (DOC.md): every function terminates, and none panics, whatever its arguments are; R2 holds for them, too.
 func TestAnyArguments(t *testing.T) {
 	eachShow(func(d *cases.Dice, s api.JudgeShow) {
 		if d.Below(4) > 0 {
-			s = spoilt(d, s)
+			s = d.SpoiltJudgeShow(s)
 		}
 		for range 3 {
 			a := asked{d.Odd(), d.Odd(), mark(d.Odd(), d.Odd())}
