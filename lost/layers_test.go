@@ -27,25 +27,16 @@ func sent(l api.ScionList, wants []int, sort, lives, known int) (api.LostSearch,
 	return x, gardens
 }
 
-// throwFitting returns a gift that fits, of wants that come in any order.
-func throwFitting(d *cases.Dice, l api.ScionList) []int {
-	var wants []int
-	for _, number := range d.Shuffled(len(l.Wants)) {
-		longer := slices.Sorted(slices.Values(append(slices.Clone(wants), number)))
-		if fits, e := scions.Fits(l, longer); fits && e == api.OK && d.Below(6) > 0 {
-			wants = longer
-		}
-	}
-	return wants
-}
-
 // P0.3 (the sort that is sent out)
 func TestSortThatIsSentOut(t *testing.T) {
 	d := cases.Dice(3)
 	several, one := 0, 0
 	for range 1000 {
 		l := d.ScionList(1+d.Below(api.MaxScionSorts), 1+d.Below(api.MaxScionGardens), d.Below(api.MaxScionWants+1))
-		wants := throwFitting(&d, l)
+		wants := d.FittingGift(l, func(gift []int) bool {
+			fits, e := scions.Fits(l, gift)
+			return fits && e == api.OK
+		})
 		for sort := range l.Scions {
 			lives := 2 + d.Below(api.MaxLostYear-1)
 			x, gardens := sent(l, wants, sort, lives, []int{api.Surely, api.Perhaps}[d.Below(2)])
